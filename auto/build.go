@@ -4,11 +4,11 @@ import "sieve/api"
 
 // What the Op of an Expr says; of another one nothing is meant, as of 0.
 const (
-	opEmpty  = 1
-	opByte   = 2
-	opRow    = 3
-	opChoice = 4
-	opAgain  = 5
+	OpEmpty  = 1
+	OpByte   = 2
+	OpRow    = 3
+	OpChoice = 4
+	OpAgain  = 5
 )
 
 // automaton knows a set of texts: those that lead from its start to its end.
@@ -49,15 +49,15 @@ func (b *builder) leave(e *api.Expr, from, to int) {
 
 func (b *builder) lay(s span) {
 	switch s.e.Op {
-	case opEmpty:
+	case OpEmpty:
 		b.link(s.from, s.to, free)
-	case opByte:
+	case OpByte:
 		b.layByte(s)
-	case opRow:
+	case OpRow:
 		b.layRow(s)
-	case opChoice:
+	case OpChoice:
 		b.layChoice(s.e.Kids, s.from, s.to)
-	case opAgain:
+	case OpAgain:
 		// A state of its own, as what comes back to it must not come back to what stands ahead.
 		hub := b.grow()
 		b.link(s.from, hub, free)

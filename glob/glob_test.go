@@ -689,3 +689,29 @@ func TestParsedMemory(t *testing.T) {
 		t.Errorf("Parse answers %v and then %v", other, again)
 	}
 }
+
+// A bracket as regular expressions write it: what it means and how long it is; what does not begin with one.
+func TestPlainBracket(t *testing.T) {
+	for _, c := range []struct {
+		s, has string
+		length int
+	}{
+		{"[a]", "a", 3},
+		{"[ba]x", "ab", 4},
+		{"[]a]]", "]a", 4},
+		{"[!a]", "!a", 4},
+		{`[\]]`, `\`, 3},
+		{"[^\x00-b\x64-\xff]", "c", 9},
+		{"[[:digit:]-]*", "-0123456789", 12},
+		{"[b-a]", "", 5},
+	} {
+		if has, length, ok := glob.PlainBracket(c.s); has != c.has || length != c.length || !ok {
+			t.Errorf("PlainBracket(%q) = %q %d %t, want %q %d true", c.s, has, length, ok, c.has, c.length)
+		}
+	}
+	for _, s := range []string{"", "a", "a]", "]", "ab]", "a[b]", "[", "[]", "[^]", "[[:nope:]]", "[a", `\[a]`} {
+		if has, length, ok := glob.PlainBracket(s); has != "" || length != 0 || ok {
+			t.Errorf("PlainBracket(%q) = %q %d %t, want none", s, has, length, ok)
+		}
+	}
+}

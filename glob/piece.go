@@ -46,7 +46,7 @@ func readPiece(s string) (piece, int, api.Errno) {
 		}
 		return oneByte(s[1]), 2, api.OK
 	case '[':
-		b, ok := readBracket(s)
+		b, ok := readBracket(s, style{others: "!^", escapes: true})
 		if ok && !b.known {
 			return piece{}, 0, api.ErrRange
 		}

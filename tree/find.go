@@ -42,7 +42,7 @@ func (f *finder) find(from int, s string, follow bool) (int, error) {
 		}
 		at = next
 	}
-	if wantsDirectory && !isDirectory(f.nodes[at].Kind) {
+	if wantsDirectory && !IsDirectory(f.nodes[at].Kind) {
 		return 0, errKind
 	}
 	return at, nil
@@ -51,7 +51,7 @@ func (f *finder) find(from int, s string, follow bool) (int, error) {
 // step goes one part on.
 func (f *finder) step(at int, part string, follow bool) (int, error) {
 	here := f.nodes[at]
-	if !isDirectory(here.Kind) {
+	if !IsDirectory(here.Kind) {
 		return 0, errKind
 	}
 	switch part {

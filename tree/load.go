@@ -74,7 +74,7 @@ func (b *builder) add(line string, ended bool) error {
 	n.Up = b.spots[up].number
 	b.nodes = append(b.nodes, n)
 	b.nodes[n.Up].Kids = append(b.nodes[n.Up].Kids, number)
-	b.spots[way] = spot{number: number, directory: isDirectory(n.Kind)}
+	b.spots[way] = spot{number: number, directory: IsDirectory(n.Kind)}
 	return nil
 }
 

@@ -52,9 +52,9 @@ func errno(err error) api.Errno {
 	return api.ErrLoop
 }
 
-// isDirectory counts also a directory that cannot be read: it has nodes in it
-// and is gone through.
-func isDirectory(kind byte) bool {
+// IsDirectory tells whether a Kind is a directory's. A directory that cannot be
+// read counts too: it has nodes in it and is gone through.
+func IsDirectory(kind byte) bool {
 	return kind == 'd' || kind == 'x'
 }
 

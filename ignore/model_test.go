@@ -198,6 +198,14 @@ func TestModelOfIgnored(t *testing.T) {
 	r := rand.New(rand.NewPCG(7, 3))
 	for range 300 {
 		l := randomTree(r)
+		asker := ignore.Asker(l)
+		for range 2 * len(l) {
+			k := 1 + r.IntN(len(l)-1)
+			want := modelIgnored(l, k)
+			if got := asker(k); got != want {
+				t.Fatalf("of %q the Asker says %t, want %t, in\n%s", tree.Way(l, k), got, want, tree.Print(l))
+			}
+		}
 		for k := 1; k < len(l); k++ {
 			if got, want := ignore.Ignored(l, k), modelIgnored(l, k); got != want {
 				t.Fatalf("Ignored(%q) = %t, want %t, in\n%s", tree.Way(l, k), got, want, tree.Print(l))
